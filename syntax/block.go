@@ -1,6 +1,9 @@
 package syntax
 
-import "seedbed/api"
+import (
+	"seedbed/api"
+	"seedbed/shape"
+)
 
 func (p *parser) blockOfOne(op int) api.Stmt {
 	s := api.Stmt{Op: op, Args: p.one()}
@@ -41,12 +44,12 @@ func (p *parser) shield(op int) api.Stmt {
 func (p *parser) attempt(op int) api.Stmt {
 	s := api.Stmt{Op: op, Body: p.block()}
 	if p.accept("catch") {
-		s.Flag |= hasCatch
+		s.Flag |= shape.HasCatch
 		s.Name = p.name()
 		s.Other = p.block()
 	}
 	if p.accept("finally") {
-		s.Flag |= hasFinally
+		s.Flag |= shape.HasFinally
 		s.Last = p.block()
 	}
 	if s.Flag == 0 {
@@ -69,7 +72,7 @@ func (p *parser) flow(op int) api.Stmt {
 	s := p.call(op)
 	s.Name = name
 	if p.accept("buffer") {
-		size := p.numeral(maxBuffer)
+		size := p.numeral(shape.MaxBuffer)
 		s.Flag = 4*size + p.policy()
 	}
 	s.Body = p.block()

@@ -31,38 +31,3 @@ func sameExpr(e, f api.Expr) bool {
 	return e.Op == f.Op && e.N == f.N && e.S == f.S && e.Slot == f.Slot &&
 		slices.EqualFunc(e.Args, f.Args, sameExpr)
 }
-
-// each is a new list of what clone makes of the elements of a list.
-func each[T any](list []T, clone func(T) T) []T {
-	var out []T
-	for _, x := range list {
-		out = append(out, clone(x))
-	}
-	return out
-}
-
-func cloneFunc(f api.Func) api.Func {
-	f.Params = slices.Clone(f.Params)
-	f.Body = each(f.Body, cloneStmt)
-	return f
-}
-
-func cloneStmt(s api.Stmt) api.Stmt {
-	s.Args = each(s.Args, cloneExpr)
-	s.Body = each(s.Body, cloneStmt)
-	s.Other = each(s.Other, cloneStmt)
-	s.Last = each(s.Last, cloneStmt)
-	s.Cases = each(s.Cases, cloneCase)
-	return s
-}
-
-func cloneCase(c api.Case) api.Case {
-	c.Args = each(c.Args, cloneExpr)
-	c.Body = each(c.Body, cloneStmt)
-	return c
-}
-
-func cloneExpr(e api.Expr) api.Expr {
-	e.Args = each(e.Args, cloneExpr)
-	return e
-}

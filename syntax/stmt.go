@@ -2,12 +2,6 @@ package syntax
 
 import "seedbed/api"
 
-// Parts of a try, as its flag has them.
-const (
-	hasCatch   = 1
-	hasFinally = 2
-)
-
 // reader reads the statements that begin with a word, from behind it, as a statement with the operator op.
 type reader struct {
 	op   int

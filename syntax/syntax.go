@@ -5,6 +5,7 @@ import (
 	"slices"
 
 	"seedbed/api"
+	"seedbed/shape"
 )
 
 // Parse returns the program of a source; if there is an error, its position.
@@ -25,7 +26,7 @@ func ParseExpr(source string) (api.Expr, int, api.Errno) {
 	if err != api.OK {
 		return api.Expr{}, at, err
 	}
-	if _, err := look(func(c *census) { c.lone(e) }); err != api.OK {
+	if shape.Expr(e) != api.OK {
 		return api.Expr{}, 0, api.ErrFull
 	}
 	return e, 0, api.OK
@@ -33,20 +34,20 @@ func ParseExpr(source string) (api.Expr, int, api.Errno) {
 
 // Check returns OK if a program is well formed.
 func Check(p api.Program) api.Errno {
-	_, err := lookAt(p)
+	_, _, err := shape.Program(p)
 	return err
 }
 
 // Nodes returns the number of nodes of a well formed program.
 func Nodes(p api.Program) (int, api.Errno) {
-	c, err := lookAt(p)
-	return c.nodes, err
+	nodes, _, err := shape.Program(p)
+	return nodes, err
 }
 
 // Depth returns the greatest depth of a well formed program.
 func Depth(p api.Program) (int, api.Errno) {
-	c, err := lookAt(p)
-	return c.deepest, err
+	_, depth, err := shape.Program(p)
+	return depth, err
 }
 
 // Same reports whether two programs are equal in all fields.
@@ -59,5 +60,5 @@ func Clone(p api.Program) (api.Program, api.Errno) {
 	if err := Check(p); err != api.OK {
 		return api.Program{}, err
 	}
-	return api.Program{Funcs: each(p.Funcs, cloneFunc)}, api.OK
+	return shape.Clone(p), api.OK
 }

@@ -1,12 +1,9 @@
-package syntax
+package shape
 
 import (
 	"seedbed/api"
 	"seedbed/lexis"
 )
-
-// maxBuffer is the greatest numeral of a buffer.
-const maxBuffer = 16
 
 // Whether something has a name.
 const (
@@ -48,35 +45,32 @@ var shapes = [api.SProduce + 1]shape{
 	api.SWhile:    {least: 1, most: 1, body: true},
 	api.SScope:    {most: 1, flags: 1, body: true},
 	api.SShield:   {body: true},
-	api.STry:      {name: nameable, flags: hasCatch | hasFinally, body: true},
+	api.STry:      {name: nameable, flags: HasCatch | HasFinally, body: true},
 	api.SUse:      {name: named, least: 1, most: 1, body: true},
 	api.SHold:     {least: 1, most: 1, body: true},
 	api.SSelect:   {},
-	api.SEach:     {name: named, fn: named, most: api.MaxNodes, flags: 4*maxBuffer + api.PNewest, body: true},
+	api.SEach:     {name: named, fn: named, most: api.MaxNodes, flags: 4*MaxBuffer + api.PNewest, body: true},
 	api.SProduce:  {least: 1, most: 1},
 }
 
 // misfit is the panic by which a census ends at what is not well formed.
 type misfit struct{}
 
-// census counts nodes, and finds the greatest depth.
+// census counts nodes, and finds the greatest depth; slots says whether there can be slots.
 type census struct {
 	nodes, deepest int
+	slots          bool
 }
 
 // look lets a census visit something. ErrArg: that is not well formed.
-func look(visit func(*census)) (c census, err api.Errno) {
+func (c census) look(visit func(*census)) (nodes, deepest int, err api.Errno) {
 	defer func() {
 		if recover() != nil {
-			c, err = census{}, api.ErrArg
+			nodes, deepest, err = 0, 0, api.ErrArg
 		}
 	}()
 	visit(&c)
-	return c, api.OK
-}
-
-func lookAt(p api.Program) (census, api.Errno) {
-	return look(func(c *census) { c.program(p) })
+	return c.nodes, c.deepest, api.OK
 }
 
 func need(fits bool) {
@@ -100,7 +94,8 @@ func (c *census) program(p api.Program) {
 	need(len(p.Funcs) > 0 && len(p.Funcs) <= api.MaxFuncs)
 	c.count(0, len(p.Funcs))
 	for _, f := range p.Funcs {
-		need(lexis.IsName(f.Name) && f.Vars == 0)
+		need(lexis.IsName(f.Name))
+		c.bare(f.Vars)
 		need(f.Result == api.KUnit || isKind(f.Result) && !f.Flow)
 		need(len(f.Params) <= api.MaxParams)
 		for _, q := range f.Params {
@@ -111,6 +106,13 @@ func (c *census) program(p api.Program) {
 	}
 }
 
+// bare checks that there are no slots where there can be none.
+func (c *census) bare(slots ...int) {
+	for _, n := range slots {
+		need(c.slots || n == 0)
+	}
+}
+
 // isKind reports whether a kind can be written.
 func isKind(kind int) bool { return kind >= api.KInt && kind <= api.KLock }
 
@@ -118,6 +120,7 @@ func isKind(kind int) bool { return kind >= api.KInt && kind <= api.KLock }
 func (c *census) stmts(depth int, list []api.Stmt) {
 	for _, s := range list {
 		need(stmtFits(s))
+		c.bare(s.Slot, s.Index)
 		c.count(depth+1, len(s.Args), len(s.Body), len(s.Other), len(s.Last), len(s.Cases))
 		c.exprs(depth+1, s.Args)
 		c.stmts(depth+1, s.Body)
@@ -125,6 +128,7 @@ func (c *census) stmts(depth int, list []api.Stmt) {
 		c.stmts(depth+1, s.Last)
 		for i, k := range s.Cases {
 			need(caseFits(k, i == len(s.Cases)-1))
+			c.bare(k.Slot)
 			c.count(depth+2, len(k.Args), len(k.Body))
 			c.exprs(depth+2, k.Args)
 			c.stmts(depth+2, k.Body)
@@ -136,6 +140,7 @@ func (c *census) stmts(depth int, list []api.Stmt) {
 func (c *census) exprs(depth int, list []api.Expr) {
 	for _, e := range list {
 		need(exprFits(e))
+		c.bare(e.Slot)
 		c.count(depth+1, len(e.Args))
 		c.exprs(depth+1, e.Args)
 	}
@@ -153,7 +158,7 @@ func stmtFits(s api.Stmt) bool {
 		return false
 	}
 	f := shapes[s.Op]
-	return nameFits(s.Name, f.name) && nameFits(s.Fn, f.fn) && s.Slot == 0 && s.Index == 0 &&
+	return nameFits(s.Name, f.name) && nameFits(s.Fn, f.fn) &&
 		len(s.Args) >= f.least && len(s.Args) <= f.most &&
 		flagFits(s, f.flags) && partsFit(s, f.body)
 }
@@ -173,7 +178,7 @@ func flagFits(s api.Stmt, most int) bool {
 	case api.SReceive:
 		return s.Flag == 0 || s.Name != ""
 	case api.STry:
-		return s.Flag != 0 && (s.Flag&hasCatch != 0) == (s.Name != "")
+		return s.Flag != 0 && (s.Flag&HasCatch != 0) == (s.Name != "")
 	case api.SEach:
 		return s.Flag%4 <= api.PNewest
 	}
@@ -182,8 +187,8 @@ func flagFits(s api.Stmt, most int) bool {
 
 // partsFit reports whether a statement has statements and cases only where it can.
 func partsFit(s api.Stmt, body bool) bool {
-	other := s.Op == api.SIf && s.Flag == 1 || s.Op == api.STry && s.Flag&hasCatch != 0
-	last := s.Op == api.STry && s.Flag&hasFinally != 0
+	other := s.Op == api.SIf && s.Flag == 1 || s.Op == api.STry && s.Flag&HasCatch != 0
+	last := s.Op == api.STry && s.Flag&HasFinally != 0
 	if s.Op == api.SSelect && (len(s.Cases) == 0 || len(s.Cases) > api.MaxCases) {
 		return false
 	}
@@ -192,9 +197,6 @@ func partsFit(s api.Stmt, body bool) bool {
 }
 
 func caseFits(k api.Case, last bool) bool {
-	if k.Slot != 0 {
-		return false
-	}
 	switch k.Op {
 	case api.CReceive:
 		return lexis.IsName(k.Name) && len(k.Args) == 1
@@ -209,7 +211,7 @@ func caseFits(k api.Case, last bool) bool {
 }
 
 func exprFits(e api.Expr) bool {
-	if e.Slot != 0 || e.Op != api.EInt && e.Op != api.EBool && e.N != 0 || e.Op != api.EText && e.Op != api.EName && e.S != "" {
+	if e.Op != api.EInt && e.Op != api.EBool && e.N != 0 || e.Op != api.EText && e.Op != api.EName && e.S != "" {
 		return false
 	}
 	switch e.Op {

@@ -1,0 +1,97 @@
+package shape
+
+import (
+	"strings"
+	"testing"
+
+	"seedbed/api"
+)
+
+func variable(name string, args ...api.Expr) api.Expr {
+	return api.Expr{Op: api.EName, S: name, Args: args}
+}
+
+func called(fn string, args ...api.Expr) api.Stmt {
+	return api.Stmt{Op: api.SCall, Fn: fn, Args: args}
+}
+
+// nested has statements in all parts of a statement, and expressions in expressions.
+func nested() []api.Stmt {
+	inner := api.Stmt{Op: api.STry, Fn: "b", Args: []api.Expr{variable("x", variable("y"), variable("z"))}, Body: []api.Stmt{called("c", variable("u"))}, Other: []api.Stmt{called("d")}, Last: []api.Stmt{called("e")}}
+	inner.Cases = []api.Case{{Args: []api.Expr{variable("v", variable("w"))}, Body: []api.Stmt{called("f")}}, {Args: []api.Expr{variable("k")}, Body: []api.Stmt{called("g")}}}
+	return []api.Stmt{called("a"), inner, called("h")}
+}
+
+// TestVisits checks the order of Stmts and Exprs, and that they stop anywhere.
+func TestVisits(t *testing.T) {
+	list := nested()
+	for most := range 9 {
+		got := ""
+		for s := range Stmts(list) {
+			got += s.Fn
+			if len(got) > most {
+				break
+			}
+		}
+		if want := "abcdefgh"; got != want[:min(most+1, len(want))] {
+			t.Errorf("Stmts visits %s", got)
+		}
+		got = ""
+		for e := range Exprs(&list[1]) {
+			got += e.S
+			if len(got) > most {
+				break
+			}
+		}
+		if want := "xyzvwk"; got != want[:min(most+1, len(want))] {
+			t.Errorf("Exprs visits %s", got)
+		}
+	}
+}
+
+// TestVisitsInPlace checks that what is visited can be changed, and that a clone is not changed with it.
+func TestVisitsInPlace(t *testing.T) {
+	p := api.Program{Funcs: []api.Func{{Name: "main", Params: []api.Param{{Name: "q"}}, Body: nested()}}}
+	q := Clone(p)
+	q.Funcs[0].Params[0].Name = "r"
+	for s := range Stmts(q.Funcs[0].Body) {
+		s.Slot = 1
+		for e := range Exprs(s) {
+			e.Slot = 1
+		}
+	}
+	for s := range Stmts(p.Funcs[0].Body) {
+		for e := range Exprs(s) {
+			if s.Slot != 0 || e.Slot != 0 || p.Funcs[0].Params[0].Name != "q" {
+				t.Error("a clone shares memory")
+			}
+		}
+	}
+	for s := range Stmts(q.Funcs[0].Body) {
+		for e := range Exprs(s) {
+			if s.Slot != 1 || e.Slot != 1 {
+				t.Error("a change is lost")
+			}
+		}
+	}
+}
+
+// TestChecks checks which programs and expressions are taken with slots.
+func TestChecks(t *testing.T) {
+	emit := api.Stmt{Op: api.SEmit, Args: []api.Expr{variable("x")}}
+	bare := api.Program{Funcs: []api.Func{{Name: "main", Body: []api.Stmt{emit}}}}
+	slotted := Clone(bare)
+	slotted.Funcs[0].Body[0].Args[0].Slot = -3
+	if nodes, depth, err := Program(bare); nodes != 3 || depth != 2 || err != api.OK || ButForSlots(bare) != api.OK {
+		t.Errorf("Program = %d, %d, %d", nodes, depth, err)
+	}
+	if nodes, depth, err := Program(slotted); nodes != 0 || depth != 0 || err != api.ErrArg || ButForSlots(slotted) != api.OK {
+		t.Errorf("Program with a slot = %d, %d, %d", nodes, depth, err)
+	}
+	if Expr(variable("x")) != api.OK || Expr(slotted.Funcs[0].Body[0].Args[0]) != api.ErrArg || ButForSlots(api.Program{}) != api.ErrArg {
+		t.Error("Expr, ButForSlots")
+	}
+	if !IsName("x1") || IsName("let") || IsName(strings.Repeat("x", api.MaxName+1)) {
+		t.Error("IsName")
+	}
+}
