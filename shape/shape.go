@@ -1,4 +1,4 @@
-// Package shape tells what programs and expressions look like, for all layers that take them: whether they are well formed (see shared/doc/02-syntax.md), how to copy them, and what they consist of.
+// Package shape tells what programs, expressions and values look like, for all layers that take them: whether they are well formed (see shared/doc/02-syntax.md) or valid (see shared/DOC.md), how to copy them, and what they consist of.
 package shape
 
 import (
@@ -29,6 +29,12 @@ func ButForSlots(p api.Program) api.Errno {
 // Expr returns OK if an expression is that of some source, and neither too large nor too deep.
 func Expr(e api.Expr) api.Errno {
 	_, _, err := census{}.look(func(c *census) { c.lone(e) })
+	return err
+}
+
+// ExprButForSlots returns OK if Expr would for an expression but for its slots.
+func ExprButForSlots(e api.Expr) api.Errno {
+	_, _, err := census{slots: true}.look(func(c *census) { c.lone(e) })
 	return err
 }
 

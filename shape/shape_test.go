@@ -91,7 +91,26 @@ func TestChecks(t *testing.T) {
 	if Expr(variable("x")) != api.OK || Expr(slotted.Funcs[0].Body[0].Args[0]) != api.ErrArg || ButForSlots(api.Program{}) != api.ErrArg {
 		t.Error("Expr, ButForSlots")
 	}
+	if ExprButForSlots(slotted.Funcs[0].Body[0].Args[0]) != api.OK || ExprButForSlots(variable("x")) != api.OK || ExprButForSlots(variable("let")) != api.ErrArg || ExprButForSlots(api.Expr{Slot: 1}) != api.ErrArg {
+		t.Error("ExprButForSlots")
+	}
 	if !IsName("x1") || IsName("let") || IsName(strings.Repeat("x", api.MaxName+1)) {
 		t.Error("IsName")
+	}
+}
+
+// TestValid checks which values are valid.
+func TestValid(t *testing.T) {
+	for want, list := range map[bool][]api.Value{
+		true: {{}, {Kind: api.KInt}, {Kind: api.KInt, N: api.MaxInt}, {Kind: api.KInt, N: -api.MaxInt}, {Kind: api.KBool}, {Kind: api.KBool, N: 1}, {Kind: api.KText}, {Kind: api.KText, S: " ~"}, {Kind: api.KText, S: strings.Repeat("x", api.MaxText)},
+			{Kind: api.KChan, N: 1}, {Kind: api.KTask, N: 1}, {Kind: api.KLock, N: 1}, {Kind: api.KChan, N: api.MaxInt}, {Kind: api.KTask, N: api.MaxInt}, {Kind: api.KLock, N: api.MaxInt}},
+		false: {{N: 1}, {N: -1}, {S: "x"}, {Kind: api.KInt, N: api.MaxInt + 1}, {Kind: api.KInt, N: -api.MaxInt - 1}, {Kind: api.KInt, S: "x"}, {Kind: api.KBool, N: 2}, {Kind: api.KBool, N: -1}, {Kind: api.KBool, S: "x"}, {Kind: api.KText, N: 1}, {Kind: api.KText, S: "\x1f"}, {Kind: api.KText, S: "\x7f"}, {Kind: api.KText, S: strings.Repeat("x", api.MaxText+1)},
+			{Kind: api.KChan}, {Kind: api.KTask}, {Kind: api.KLock}, {Kind: api.KChan, N: -1}, {Kind: api.KTask, N: api.MaxInt + 1}, {Kind: api.KLock, N: 1, S: "x"}, {Kind: -1, N: 1}, {Kind: api.KLock + 1, N: 1}},
+	} {
+		for _, v := range list {
+			if Valid(v) != want {
+				t.Errorf("Valid(%v) is not %t", v, want)
+			}
+		}
 	}
 }
