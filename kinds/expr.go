@@ -71,13 +71,3 @@ func isOrder(op int) bool { return op >= api.ELt && op <= api.EGe }
 func isArithmetic(op int) bool { return op >= api.EAdd && op <= api.ERem }
 
 func isNoKind(kind int) bool { return kind < api.KUnit || kind > api.KLock }
-
-// slotsFit reports whether the slots of all names in an expression are positions of vars.
-func slotsFit(e api.Expr, vars []int) bool {
-	for x := range shape.Exprs(&api.Stmt{Args: []api.Expr{e}}) {
-		if x.Op == api.EName && (x.Slot < 0 || x.Slot >= len(vars)) {
-			return false
-		}
-	}
-	return true
-}

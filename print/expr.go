@@ -5,6 +5,7 @@ import (
 	"strings"
 
 	"seedbed/api"
+	"seedbed/shape"
 )
 
 // symbol is an operator with a number of operands.
@@ -80,12 +81,7 @@ func leaf(e api.Expr) string {
 	case api.EBool:
 		return strconv.FormatBool(e.N == 1)
 	case api.EText:
-		return quote(e.S)
+		return shape.Quote(e.S)
 	}
 	return e.S
-}
-
-func quote(text string) string {
-	text = strings.ReplaceAll(text, `\`, `\\`)
-	return `"` + strings.ReplaceAll(text, `"`, `\"`) + `"`
 }

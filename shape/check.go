@@ -220,7 +220,7 @@ func exprFits(e api.Expr) bool {
 	case api.EBool:
 		return (e.N == 0 || e.N == 1) && len(e.Args) == 0
 	case api.EText:
-		return isText(e.S) && len(e.Args) == 0
+		return IsText(e.S) && len(e.Args) == 0
 	case api.EName:
 		return lexis.IsName(e.S) && len(e.Args) == 0
 	case api.ENot, api.ENeg:

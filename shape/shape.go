@@ -40,3 +40,16 @@ func ExprButForSlots(e api.Expr) api.Errno {
 
 // IsName reports whether a function or a variable can have a name.
 func IsName(s string) bool { return lexis.IsName(s) }
+
+// SlotsFit reports whether all names in an expression that has been checked mean one of a number of variables.
+func SlotsFit(e api.Expr, vars int) bool {
+	if e.Op == api.EName {
+		return e.Slot >= 0 && e.Slot < vars
+	}
+	for _, x := range e.Args {
+		if !SlotsFit(x, vars) {
+			return false
+		}
+	}
+	return true
+}

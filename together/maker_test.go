@@ -40,6 +40,17 @@ func askingForms() []form {
 	}
 }
 
+// straightForms returns the asking forms in which no value decides.
+func straightForms() []form {
+	var list []form
+	for _, f := range askingForms() {
+		if !strings.Contains(f.text, "select") {
+			list = append(list, f)
+		}
+	}
+	return list
+}
+
 func placedForms(where int) []form {
 	switch where {
 	case inLoops:
@@ -72,6 +83,7 @@ type maker struct {
 	self     signature
 	forms    []form
 	safe     bool // nothing that can fail is written into expressions
+	straight bool // nothing is written whose asks can depend on the values of replies
 	seen     []variable
 	made     int
 	loops    int
@@ -113,7 +125,10 @@ func (m *maker) function(f signature) string {
 			m.forms = append(m.forms, x)
 		}
 	}
-	if m.chance(3) {
+	switch {
+	case m.straight:
+		m.forms, m.safe = straightForms(), true
+	case m.chance(3):
 		m.forms = quietForms()
 	}
 	var params []string
@@ -146,7 +161,7 @@ func (m *maker) tail(depth int) string {
 	two := m.tail(depth - 1)
 	other := pick(m, []string{one, two, "{ }"})
 	list := []string{
-		"if true " + one + " else " + two, "if false " + one + " else " + two, "if true " + one, "scope " + one, "shield " + one, "use " + m.fresh() + " = 1 " + one, "while 1 < 2 " + one, "while false " + one, "each " + m.fresh() + " from flow0() " + one,
+		"if a " + one + " else " + two, "if a != b " + one + " else " + two, "if b " + one, "scope " + one, "shield " + one, "use " + m.fresh() + " = 1 " + one, "while a " + one, "while b || a == b " + one, "each " + m.fresh() + " from flow0() " + one,
 		"try " + one + " finally " + other, "try " + one + " catch " + m.fresh() + " " + two, "try " + one + " catch " + m.fresh() + " " + two + " finally " + other, "select { after 1 " + one + " after 2 " + two + " else " + other + " }",
 	}
 	if m.loops == 0 {
@@ -159,10 +174,15 @@ func (m *maker) tail(depth int) string {
 
 // last ends a function with a result.
 func (m *maker) last() string {
-	if len(m.having(m.self.result)) == 0 && m.self.result > api.KText {
+	has := m.canHave([]int{m.self.result})
+	switch {
+	case m.straight && has:
+		return "return " + m.want(m.self.result) + ";"
+	case m.straight:
+		return "throw \"\";"
+	case !has:
 		return pick(m, []string{"while true { }", "throw \"\";", "while true { if true { continue; } while true { break; } }"})
-	}
-	if m.chance(3) {
+	case m.chance(3):
 		return "if " + m.want(api.KBool) + " { return " + m.want(m.self.result) + "; } else { try { return " + m.want(m.self.result) + "; } finally { } }"
 	}
 	return "return " + m.want(m.self.result) + ";"
@@ -290,6 +310,13 @@ func (m *maker) stmt(depth int) string {
 	if f := pick(m, forms); m.canHave(f.wants) {
 		return m.fill(f, depth)
 	}
+	return m.nothing()
+}
+
+func (m *maker) nothing() string {
+	if m.straight {
+		return "shield { }"
+	}
 	return "if true { }"
 }
 
@@ -339,8 +366,8 @@ func (m *maker) inner(depth int, loop bool, vars ...variable) string {
 // call writes a call of a function that can be called here.
 func (m *maker) call(depth int) string {
 	f := pick(m, m.funcs)
-	if !m.canHave(f.params) || f.flow && m.loops > 1 {
-		return "if true { }"
+	if !m.canHave(f.params) || f.flow && (m.loops > 1 || m.straight) {
+		return m.nothing()
 	}
 	var args []string
 	for _, kind := range f.params {

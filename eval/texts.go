@@ -1,0 +1,80 @@
+package eval
+
+import (
+	"strconv"
+	"strings"
+
+	"seedbed/api"
+	"seedbed/shape"
+)
+
+const (
+	unitText  = "unit"
+	trueText  = "true"
+	falseText = "false"
+)
+
+// handles holds the words of the kinds whose values are numbers that the world gave.
+var handles = [api.KLock + 1]string{api.KChan: "chan", api.KTask: "task", api.KLock: "lock"}
+
+// show returns the text of a valid value.
+func show(v api.Value) string {
+	switch v.Kind {
+	case api.KUnit:
+		return unitText
+	case api.KInt:
+		return strconv.Itoa(v.N)
+	case api.KBool:
+		if v == truth(true) {
+			return trueText
+		}
+		return falseText
+	case api.KText:
+		return shape.Quote(v.S)
+	}
+	return handles[v.Kind] + "#" + strconv.Itoa(v.N)
+}
+
+// guess returns the only value that can have a text, if there is one; it need not be valid, nor have the text.
+func guess(s string) api.Value {
+	switch s {
+	case unitText:
+		return api.Value{}
+	case trueText:
+		return truth(true)
+	case falseText:
+		return truth(false)
+	}
+	if strings.HasPrefix(s, `"`) {
+		return text(unquote(s))
+	}
+	word, digits, _ := strings.Cut(s, "#")
+	for kind, handle := range handles {
+		if handle != "" && handle == word {
+			return api.Value{Kind: kind, N: numeral(digits)}
+		}
+	}
+	return number(numeral(s))
+}
+
+// numeral returns the number of a text, and 0 if there is none.
+func numeral(s string) int {
+	n, err := strconv.Atoi(s)
+	if err != nil {
+		return 0
+	}
+	return n
+}
+
+// unquote returns the text that a quote can have.
+func unquote(quote string) string {
+	var out strings.Builder
+	inner := strings.TrimSuffix(quote[1:], `"`)
+	for i := 0; i < len(inner); i++ {
+		if inner[i] == '\\' && i+1 < len(inner) {
+			i++
+		}
+		out.WriteByte(inner[i])
+	}
+	return out.String()
+}
