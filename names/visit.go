@@ -41,17 +41,3 @@ func mentionsOf(s *api.Stmt, yield func(*string) bool) bool {
 	}
 	return true
 }
-
-// strip takes all slots from a function.
-func strip(f *api.Func) {
-	f.Vars = 0
-	for s := range shape.Stmts(f.Body) {
-		s.Slot, s.Index = 0, 0
-		for i := range s.Cases {
-			s.Cases[i].Slot = 0
-		}
-		for e := range shape.Exprs(s) {
-			e.Slot = 0
-		}
-	}
-}

@@ -45,3 +45,26 @@ func cloneExpr(e api.Expr) api.Expr {
 	e.Args = each(e.Args, cloneExpr)
 	return e
 }
+
+// Bare returns what Clone does, without slots.
+func Bare(p api.Program) api.Program {
+	q := Clone(p)
+	for i := range q.Funcs {
+		strip(&q.Funcs[i])
+	}
+	return q
+}
+
+// strip takes all slots from a function.
+func strip(f *api.Func) {
+	f.Vars = 0
+	for s := range Stmts(f.Body) {
+		s.Slot, s.Index = 0, 0
+		for i := range s.Cases {
+			s.Cases[i].Slot = 0
+		}
+		for e := range Exprs(s) {
+			e.Slot = 0
+		}
+	}
+}

@@ -1,6 +1,7 @@
 package shape
 
 import (
+	"reflect"
 	"strings"
 	"testing"
 
@@ -111,6 +112,47 @@ func TestValid(t *testing.T) {
 			if Valid(v) != want {
 				t.Errorf("Valid(%v) is not %t", v, want)
 			}
+		}
+	}
+}
+
+// TestBare checks that all slots are taken away, from a copy.
+func TestBare(t *testing.T) {
+	slotted := func() api.Program {
+		p := api.Program{Funcs: []api.Func{{Name: "main", Vars: 3, Body: nested()}}}
+		for s := range Stmts(p.Funcs[0].Body) {
+			s.Slot, s.Index = 1, 2
+			for i := range s.Cases {
+				s.Cases[i].Slot = 3
+			}
+			for e := range Exprs(s) {
+				e.Slot = 4
+			}
+		}
+		return p
+	}
+	p := slotted()
+	if bare := (api.Program{Funcs: []api.Func{{Name: "main", Body: nested()}}}); !reflect.DeepEqual(Bare(p), bare) {
+		t.Errorf("Bare = %v, want %v", Bare(p), bare)
+	}
+	if !reflect.DeepEqual(p, slotted()) {
+		t.Error("Bare changes its argument")
+	}
+}
+
+// TestTexts checks that values are written and read.
+func TestTexts(t *testing.T) {
+	for text, v := range map[string]api.Value{"unit": {}, "-5": {Kind: api.KInt, N: -5}, "true": {Kind: api.KBool, N: 1}, "false": {Kind: api.KBool}, `"a\"\\"`: {Kind: api.KText, S: `a"\`}, "chan#1": {Kind: api.KChan, N: 1}, "task#2": {Kind: api.KTask, N: 2}, "lock#3": {Kind: api.KLock, N: 3}} {
+		if got := Show(v); got != text {
+			t.Errorf("Show(%v) = %s, want %s", v, got, text)
+		}
+		if got, ok := Read(text); got != v || !ok {
+			t.Errorf("Read(%s) = %v, %t", text, got, ok)
+		}
+	}
+	for _, text := range []string{"", "-0", "05", `"`, `"\a"`, "chan#0", "unit "} {
+		if got, ok := Read(text); got != (api.Value{}) || ok {
+			t.Errorf("Read(%s) = %v, %t", text, got, ok)
 		}
 	}
 }

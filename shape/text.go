@@ -1,11 +1,10 @@
-package eval
+package shape
 
 import (
 	"strconv"
 	"strings"
 
 	"seedbed/api"
-	"seedbed/shape"
 )
 
 const (
@@ -17,22 +16,31 @@ const (
 // handles holds the words of the kinds whose values are numbers that the world gave.
 var handles = [api.KLock + 1]string{api.KChan: "chan", api.KTask: "task", api.KLock: "lock"}
 
-// show returns the text of a valid value.
-func show(v api.Value) string {
+// Show returns the text of a value that has been checked.
+func Show(v api.Value) string {
 	switch v.Kind {
 	case api.KUnit:
 		return unitText
 	case api.KInt:
 		return strconv.Itoa(v.N)
 	case api.KBool:
-		if v == truth(true) {
+		if v.N == 1 {
 			return trueText
 		}
 		return falseText
 	case api.KText:
-		return shape.Quote(v.S)
+		return Quote(v.S)
 	}
 	return handles[v.Kind] + "#" + strconv.Itoa(v.N)
+}
+
+// Read returns the value with a text; false: there is none.
+func Read(s string) (api.Value, bool) {
+	v := guess(s)
+	if !Valid(v) || Show(v) != s {
+		return api.Value{}, false
+	}
+	return v, true
 }
 
 // guess returns the only value that can have a text, if there is one; it need not be valid, nor have the text.
@@ -41,12 +49,12 @@ func guess(s string) api.Value {
 	case unitText:
 		return api.Value{}
 	case trueText:
-		return truth(true)
+		return api.Value{Kind: api.KBool, N: 1}
 	case falseText:
-		return truth(false)
+		return api.Value{Kind: api.KBool}
 	}
 	if strings.HasPrefix(s, `"`) {
-		return text(unquote(s))
+		return api.Value{Kind: api.KText, S: unquote(s)}
 	}
 	word, digits, _ := strings.Cut(s, "#")
 	for kind, handle := range handles {
@@ -54,7 +62,7 @@ func guess(s string) api.Value {
 			return api.Value{Kind: kind, N: numeral(digits)}
 		}
 	}
-	return number(numeral(s))
+	return api.Value{Kind: api.KInt, N: numeral(s)}
 }
 
 // numeral returns the number of a text, and 0 if there is none.
