@@ -4,6 +4,7 @@ import (
 	"slices"
 
 	"seedbed/api"
+	"seedbed/instr"
 	"seedbed/shape"
 )
 
@@ -14,7 +15,7 @@ const maxSlots = 200
 type checker struct {
 	funcs []api.FnCode
 	fn    api.FnCode
-	forms map[int]form
+	forms instr.Forms
 }
 
 // headFits reports whether all is right with a function but its instructions and guards; at is its position.
@@ -25,12 +26,12 @@ func (k checker) headFits(at int) bool {
 		!within(len(f.Code), 1, api.MaxCode) || len(f.Guards) > api.MaxGuards {
 		return false
 	}
-	return k.forms[f.Code[len(f.Code)-1].Op].ends
+	return k.forms[f.Code[len(f.Code)-1].Op].Ends
 }
 
 func (k checker) guardsFit() bool {
 	for _, g := range k.fn.Guards {
-		if !k.isA(place, g.From) || !within(g.To, g.From+1, len(k.fn.Code)) || !k.isA(place, g.At) || !k.isA(double, g.Slot) {
+		if !k.isA(instr.Place, g.From) || !within(g.To, g.From+1, len(k.fn.Code)) || !k.isA(instr.Place, g.At) || !k.isA(instr.Double, g.Slot) {
 			return false
 		}
 	}
@@ -40,85 +41,61 @@ func (k checker) guardsFit() bool {
 // fits reports whether the instruction at a place contains what it should.
 func (k checker) fits(at int) bool {
 	in := k.fn.Code[at]
-	f, ok := k.formOf(in)
-	if !ok || !k.isA(f.a, in.A) || !k.isA(f.b, in.B) || !k.isA(f.c, in.C) || !within(len(in.L), f.l.least, f.l.most) {
+	f, ok := k.forms.Of(in)
+	if !ok || !k.argsFit(in) || !within(len(in.L), f.L.Least, f.L.Most) {
 		return false
 	}
-	for _, n := range in.L {
-		if !k.isA(f.l.of, n) {
+	for field, role := range k.forms.Fields(&in) {
+		if !k.isA(role, *field) {
 			return false
 		}
 	}
-	if !shape.Valid(in.V) || !f.v && in.V != (api.Value{}) {
+	if !shape.Valid(in.V) || !f.V && in.V != (api.Value{}) {
 		return false
 	}
-	return !isSelect(in) || arms(k.fn.Code, at) <= api.MaxCases
+	return !instr.IsSelect(in) || instr.Arms(k.fn.Code, at) <= api.MaxCases
 }
 
-// formOf returns what an instruction should contain, which can depend on what it contains; false: its Op is none.
-func (k checker) formOf(in api.Instr) (form, bool) {
-	f, ok := k.forms[in.Op]
-	switch in.Op {
-	case api.ICall:
-		f.l = k.args(in.B)
-	case api.IAsk:
-		f.c, f.l = askForm(in.B)
-		if in.B == api.ASpawn {
-			f.c, f.l = function, k.args(in.C)
-		}
-	case api.IArm:
-		f.l = armForm(in.A)
+// argsFit reports whether an instruction has as many arguments as its function has parameters, if it calls one.
+func (k checker) argsFit(in api.Instr) bool {
+	fn := in.B
+	switch {
+	case in.Op == api.IAsk && in.B == api.ASpawn:
+		fn = in.C
+	case in.Op != api.ICall:
+		return true
 	}
-	return f, ok
-}
-
-// args is the list of the arguments of a function, if there is one.
-func (k checker) args(fn int) list {
-	if !k.isA(function, fn) {
-		return list{}
-	}
-	return slots(k.funcs[fn].Params)
+	return k.isA(instr.Function, fn) && len(in.L) == k.funcs[fn].Params
 }
 
 // isA reports whether a number stands for what its role says.
-func (k checker) isA(r role, n int) bool {
+func (k checker) isA(r instr.Role, n int) bool {
 	last := k.fn.Slots - 1
 	switch r {
-	case slot:
+	case instr.Slot, instr.Set:
 		return within(n, 0, last)
-	case maybe:
+	case instr.Maybe, instr.MaybeSet:
 		return within(n, -1, last)
-	case double:
+	case instr.Double:
 		return within(n, 0, last-1)
-	case place:
+	case instr.Place:
 		return within(n, 0, len(k.fn.Code)-1)
-	case function:
+	case instr.Function:
 		return within(n, 0, len(k.funcs)-1)
-	case unary:
+	case instr.Unary:
 		return within(n, api.ENot, api.ENeg)
-	case binary:
+	case instr.Binary:
 		return within(n, api.EEq, api.ERem)
-	case ask:
+	case instr.Ask:
 		return within(n, api.AYield, api.ARelease)
-	case arm:
+	case instr.Arm:
 		return within(n, api.CReceive, api.CAfter)
-	case flag:
+	case instr.Flag:
 		return within(n, 0, 1)
-	case policy:
+	case instr.Policy:
 		return within(n, api.PWait, api.PNewest)
 	}
 	return n == 0
 }
 
 func within(n, from, to int) bool { return n >= from && n <= to }
-
-func isSelect(in api.Instr) bool { return in.Op == api.IAsk && in.B == api.ASelect }
-
-// arms returns how many arms stand directly before a place.
-func arms(code []api.Instr, at int) int {
-	n := 0
-	for n < at && code[at-1-n].Op == api.IArm {
-		n++
-	}
-	return n
-}

@@ -2,14 +2,14 @@ package code
 
 import (
 	"iter"
-	"slices"
 
 	"seedbed/api"
+	"seedbed/instr"
 )
 
 // reached returns the places of a function of a valid code that can be reached.
 func reached(f api.FnCode) []int {
-	way := follower{fn: f, forms: instructions()}
+	way := follower{fn: f, forms: instr.Table()}
 	seen := make([]bool, len(f.Code))
 	seen[0] = true
 	for waiting := []int{0}; len(waiting) > 0; {
@@ -34,47 +34,27 @@ func reached(f api.FnCode) []int {
 // follower follows the ways of instructions through a function of a valid code.
 type follower struct {
 	fn    api.FnCode
-	forms map[int]form
+	forms instr.Forms
 }
 
 // from visits the places that are reached if a place is.
 func (w follower) from(at int) iter.Seq[int] {
-	in := w.fn.Code[at]
-	f := w.forms[in.Op]
 	return func(yield func(int) bool) {
-		if !f.ends && !yield(at+1) || f.a == place && !yield(in.A) || f.b == place && !yield(in.B) {
-			return
-		}
-		if f.l.of == place && !yieldAll(in.L, yield) {
-			return
-		}
-		if f.raises {
-			g := guardOf(w.fn, at)
-			if g >= 0 && !yield(w.fn.Guards[g].At) {
+		for next := range w.forms.Next(w.fn, at) {
+			if !yield(next) {
 				return
 			}
 		}
-		if isSelect(in) {
-			for n := range arms(w.fn.Code, at) {
-				if !yield(at - 1 - n) {
-					return
-				}
+		if g := w.forms.Guard(w.fn, at); g >= 0 && !yield(w.fn.Guards[g].At) {
+			return
+		}
+		if !instr.IsSelect(w.fn.Code[at]) {
+			return
+		}
+		for n := range instr.Arms(w.fn.Code, at) {
+			if !yield(at - 1 - n) {
+				return
 			}
 		}
 	}
-}
-
-// yieldAll reports whether the visit goes on behind a list.
-func yieldAll(list []int, yield func(int) bool) bool {
-	for _, n := range list {
-		if !yield(n) {
-			return false
-		}
-	}
-	return true
-}
-
-// guardOf returns the position of the guard to which a raise at a place leads, -1 if there is none.
-func guardOf(f api.FnCode, at int) int {
-	return slices.IndexFunc(f.Guards, func(g api.Guard) bool { return g.From <= at && at < g.To })
 }

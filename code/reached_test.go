@@ -7,6 +7,7 @@ import (
 	"testing"
 
 	"seedbed/api"
+	"seedbed/instr"
 )
 
 // readCode reads a function with 4 slots of lines with shortened instructions: without a value, and without the zeros at the end.
@@ -171,7 +172,7 @@ func TestP103Stops(t *testing.T) {
 		{"switch 0 0 0 2,1,0", "jump 0", "return -1", "guard 0 1 1 0"},
 	} {
 		f := readCode(t, lines...).Funcs[0]
-		w := follower{f, instructions()}
+		w := follower{f, instr.Table()}
 		for at := range f.Code {
 			all := slices.Collect(w.from(at))
 			for most := range all {

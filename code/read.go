@@ -5,6 +5,7 @@ import (
 	"strings"
 
 	"seedbed/api"
+	"seedbed/instr"
 	"seedbed/shape"
 )
 
@@ -25,8 +26,8 @@ func need(holds bool) {
 
 func newReader() *reader {
 	r := &reader{ops: map[string]int{}}
-	for op, f := range instructions() {
-		r.ops[f.name] = op
+	for op, f := range instr.Table() {
+		r.ops[f.Name] = op
 	}
 	return r
 }

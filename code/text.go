@@ -5,6 +5,7 @@ import (
 	"strings"
 
 	"seedbed/api"
+	"seedbed/instr"
 	"seedbed/shape"
 )
 
@@ -20,7 +21,7 @@ const (
 
 // write returns the text of a valid code.
 func write(c api.Code) string {
-	forms := instructions()
+	forms := instr.Table()
 	var out strings.Builder
 	line := func(begin string, words ...string) {
 		out.WriteString(begin + strings.Join(words, blank) + "\n")
@@ -28,7 +29,7 @@ func write(c api.Code) string {
 	for _, f := range c.Funcs {
 		line("", fnWord, f.Name, joined(blank, f.Params, f.Slots))
 		for _, in := range f.Code {
-			line(indent, forms[in.Op].name, joined(blank, in.A, in.B, in.C), listText(in.L), shape.Show(in.V))
+			line(indent, forms[in.Op].Name, joined(blank, in.A, in.B, in.C), listText(in.L), shape.Show(in.V))
 		}
 		for _, g := range f.Guards {
 			line(indent, guardWord, joined(blank, g.From, g.To, g.At, g.Slot))

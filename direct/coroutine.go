@@ -1,6 +1,9 @@
 package direct
 
-import "seedbed/api"
+import (
+	"seedbed/api"
+	"seedbed/shape"
+)
 
 // coroutine is a coroutine of a sound program with all slots: it writes down its turns.
 type coroutine struct {
@@ -88,7 +91,7 @@ func (c *coroutine) ask(a api.Ask) api.Answer {
 	if !ok {
 		panic(left{api.OK})
 	}
-	if !fits(a, r) {
+	if !shape.Fits(a, r) {
 		panic(left{api.ErrAnswer})
 	}
 	c.steps = 0

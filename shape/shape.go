@@ -1,4 +1,4 @@
-// Package shape tells what programs, expressions and values look like, for all layers that take them: whether they are well formed (see shared/doc/02-syntax.md) or valid (see shared/DOC.md), how to copy them, and what they consist of.
+// Package shape tells what programs, expressions, values and replies look like, for all layers that take them: whether they are well formed (see shared/doc/02-syntax.md) or valid (see shared/DOC.md), whether a reply fits an ask, how to copy programs, and what they consist of.
 package shape
 
 import (

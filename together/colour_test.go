@@ -30,6 +30,7 @@ func did(x run) int {
 
 // TestP63Runs checks that functions ask, wait, throw and make tasks only if their colours say so, as long as no reply has an FThrow; and so that a quiet function is done at once (P8.4).
 func TestP63Runs(t *testing.T) {
+	t.Parallel()
 	still, calm := 0, 0
 	runs(t, 700, func(m *maker) world { return world{r: m.r, cancels: 8} }, func(x run) {
 		colours, err := colour.Colours(x.p)

@@ -43,6 +43,7 @@ func kindsOf(p api.Program, a api.Ask) (got, want []int) {
 
 // TestP53Runs checks that coroutines of sound programs never ask for a value of a wrong kind, and end with what they should, and never with kind (P7 of DOC.md); and that what they open is nested, whatever the replies are (P8.4).
 func TestP53Runs(t *testing.T) {
+	t.Parallel()
 	asked, deepest := map[int]int{}, 0
 	runs(t, 700, rough, func(x run) {
 		deepest = max(deepest, wantNested(t, x))
@@ -126,6 +127,7 @@ func wantNested(t *testing.T, x run) int {
 
 // TestP84First checks that the turns for fewer replies are the first ones of those for more.
 func TestP84First(t *testing.T) {
+	t.Parallel()
 	runs(t, 150, rough, func(x run) {
 		for n := range len(x.answers) + 1 {
 			got, err := direct.All(x.p, x.fn, x.args, x.answers[:n])
@@ -141,6 +143,7 @@ func TestP84First(t *testing.T) {
 
 // TestP83Usual checks that Alone gives each ask its usual reply.
 func TestP83Usual(t *testing.T) {
+	t.Parallel()
 	sound(t, 400, func(source string, p api.Program, m *maker, _ uint64) {
 		fn := m.r.IntN(len(p.Funcs))
 		args, most := argsOf(m.r, p.Funcs[fn]), 1+m.r.IntN(20)
@@ -169,6 +172,7 @@ func TestP83Usual(t *testing.T) {
 
 // TestP84Straight checks that the kinds of asks do not depend on the values of replies in programs in which nothing can.
 func TestP84Straight(t *testing.T) {
+	t.Parallel()
 	asks := 0
 	for seed := range uint64(600) {
 		m := newMaker(seed, -1)

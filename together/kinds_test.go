@@ -33,6 +33,7 @@ func sound(t *testing.T, seeds uint64, visit func(source string, p api.Program, 
 
 // TestP51Random checks that sound programs are sound, and that one expression of another kind makes them ErrKind.
 func TestP51Random(t *testing.T) {
+	t.Parallel()
 	sound(t, 2000, func(source string, p api.Program, m *maker, seed uint64) {
 		q, err := kinds.Check(p)
 		if want, _ := names.Resolve(p); err != api.OK || !syntax.Same(q, want) {
@@ -52,6 +53,7 @@ func TestP51Random(t *testing.T) {
 
 // TestP53Random checks that sound programs remain sound if variables are renamed, and functions exchanged.
 func TestP53Random(t *testing.T) {
+	t.Parallel()
 	sound(t, 500, func(source string, p api.Program, m *maker, _ uint64) {
 		fn := m.r.IntN(len(p.Funcs))
 		vars, _ := names.Vars(p, fn)
@@ -75,6 +77,7 @@ func TestP53Random(t *testing.T) {
 
 // TestP51Tails checks that no function with a result that Check takes ends without one.
 func TestP51Tails(t *testing.T) {
+	t.Parallel()
 	results := map[api.Errno]int{}
 	for seed := range uint64(2000) {
 		m := newMaker(seed, -1)

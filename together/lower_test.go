@@ -45,6 +45,7 @@ func more(p api.Program) int {
 
 // TestP92Random checks that lowered programs are sound, low, as large as they should be, and their own lowered ones; and that low programs remain as they are.
 func TestP92Random(t *testing.T) {
+	t.Parallel()
 	low, high, full := 0, 0, 0
 	sound(t, 2000, func(source string, p api.Program, _ *maker, _ uint64) {
 		before, _ := syntax.Nodes(p)
@@ -90,6 +91,7 @@ func TestP92Random(t *testing.T) {
 
 // TestP92Runs checks that coroutines of lowered programs have the same turns, whatever the replies are.
 func TestP92Runs(t *testing.T) {
+	t.Parallel()
 	var p, q api.Program
 	ok := false
 	flows, rounds, tries := 0, 0, 0

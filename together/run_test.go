@@ -66,6 +66,9 @@ func (w world) reply(ask api.Ask) api.Answer {
 		return api.Answer{Fault: api.Fault{Kind: api.FCancel}}
 	}
 	if ask.Kind == api.ASelect {
+		if len(ask.Arms)+ask.N == 0 {
+			return api.Answer{Fault: api.Fault{Kind: api.FCancel}}
+		}
 		index := w.r.IntN(len(ask.Arms) + ask.N)
 		if index < len(ask.Arms) && ask.Arms[index].Op == api.CReceive {
 			return api.Answer{V: valueOf(w.r, api.KInt), Index: index}
