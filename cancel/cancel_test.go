@@ -330,6 +330,11 @@ func TestP201Nil(t *testing.T) {
 				b.wantRefusals(api.ErrArg, b.calls(n, f))
 			}
 			b.wantDeadline(n, -1)
+			for kind := range api.LShield + 1 {
+				if l := (api.Link{Kind: kind, N: n}); b.Struck(l) {
+					t.Errorf("Struck(%v) of no grove", l)
+				}
+			}
 		}
 		b.wantPending()
 		b.wantNext(-1)

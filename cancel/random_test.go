@@ -340,6 +340,11 @@ func (w *walker) check() {
 			w.t.Fatalf("Chain(%d) = %v, %d, want %v, %d", n, chain, err, want, wantErr)
 		}
 		w.wantDeadline(n, w.p.deadline(w.p.reach(n), false))
+		for _, l := range []api.Link{taskLink(n), scopeLink(n)} {
+			if want := slices.Contains(w.p.struck, l); w.Struck(l) != want {
+				w.t.Fatalf("Struck(%v) = %t", l, !want)
+			}
+		}
 	}
 	for n, err := 0, api.OK; err == api.OK || n == 1; n++ {
 		var s, u api.ScopeState

@@ -417,7 +417,9 @@ func TestP171Nil(t *testing.T) {
 	if s, err := b.Chan(1); !sameState(s, api.ChanState{}) || err != api.ErrArg || b.Now() != 0 || b.Copy() != nil {
 		t.Errorf("Chan = %+v, %d; Now = %d; Copy = %v", s, err, b.Now(), b.Copy())
 	}
+	wantTimers(t, b, nil)
 	b = &Board{}
+	wantTimers(t, b, nil)
 	wantChoose(t, b, 1, []api.Arm{after(3)})
 	wantWithdraw(t, b.Copy(), 1, true)
 	wantTick(t, b, done(1, 0))

@@ -212,6 +212,26 @@ func (p *plain) state(c int) api.ChanState {
 	return s
 }
 
+// wantTimers checks what Timers visits, also if the loop is left.
+func wantTimers(t *testing.T, b *Board, want []stand) {
+	t.Helper()
+	for most := range len(want) + 1 {
+		n := 0
+		for at, d := range b.Timers() {
+			if n == len(want) || at != want[n].at || d != want[n].deal() {
+				t.Fatalf("the timer %d fires at %d with %v, want %v", n, at, d, want)
+			}
+			n++
+			if n == most {
+				break
+			}
+		}
+		if n < most {
+			t.Fatalf("%d timers, want %v", n, want)
+		}
+	}
+}
+
 // wantSame checks that a board has the state of a plain one.
 func wantSame(t *testing.T, b *Board, p *plain) {
 	t.Helper()
@@ -221,6 +241,7 @@ func wantSame(t *testing.T, b *Board, p *plain) {
 		at = list[0].at
 	}
 	wantNext(t, b, at, ok)
+	wantTimers(t, b, list)
 	wantWaiting(t, b, p.waiting...)
 	if b.Now() != p.now || len(b.chans) != len(p.chans) {
 		t.Errorf("at %d with %d channels, want %d with %d", b.Now(), len(b.chans), p.now, len(p.chans))

@@ -8,6 +8,12 @@ type wait [api.MaxCases]place
 // place is a channel or a timer; zero: an arm does not stand.
 type place struct{ channel, timer int }
 
+// ticket is that of an arm of a party.
+func ticket(party, index int) int { return party*api.MaxCases + index }
+
+// split returns the party of a ticket, and the position of its arm.
+func split(ticket int) (party, index int) { return ticket / api.MaxCases, ticket % api.MaxCases }
+
 // hasRoom reports whether there is room for all arms to stand.
 func (b *Board) hasRoom(arms []api.Arm) bool {
 	timers := len(b.timers)
@@ -36,7 +42,7 @@ func (b *Board) hasRoom(arms []api.Arm) bool {
 func (b *Board) stand(party int, arms []api.Arm) {
 	var w wait
 	for index, a := range arms {
-		w[index] = b.standArm(party*api.MaxCases+index, a)
+		w[index] = b.standArm(ticket(party, index), a)
 	}
 	if b.waits == nil {
 		b.waits = map[int]wait{}
@@ -67,7 +73,7 @@ func (b *Board) end(party int) bool {
 func (b *Board) remove(party int) {
 	for index, p := range b.waits[party] {
 		if p.channel > 0 {
-			b.chans[p.channel-1].Withdraw(party*api.MaxCases + index)
+			b.chans[p.channel-1].Withdraw(ticket(party, index))
 		}
 		if p.timer > 0 {
 			b.clock.Disarm(p.timer)

@@ -6,38 +6,33 @@ import (
 
 	"seedbed/api"
 	"seedbed/eval"
-)
-
-// What ends a line, and what stands between the words of one.
-const (
-	lineFeed = "\n"
-	blank    = ' '
+	"seedbed/words"
 )
 
 // write returns the text of frames; false: a value is not valid.
 func write(frames []api.Frame) (string, bool) {
 	var out strings.Builder
 	for _, f := range frames {
-		words := []string{strconv.Itoa(f.Fn), strconv.Itoa(f.Pc), strconv.Itoa(f.To)}
+		list := []string{strconv.Itoa(f.Fn), strconv.Itoa(f.Pc), strconv.Itoa(f.To)}
 		for _, v := range f.Slots {
 			word, err := eval.Show(v)
 			if err != api.OK {
 				return "", false
 			}
-			words = append(words, word)
+			list = append(list, word)
 		}
-		out.WriteString(line(words...))
+		out.WriteString(line(list...))
 	}
 	return out.String(), true
 }
 
-func line(words ...string) string { return strings.Join(words, string(blank)) + lineFeed }
+func line(list ...string) string { return strings.Join(list, words.Blank) + words.LineFeed }
 
 // read returns frames that have a text, if any have it; false: none have it.
 func read(text string) ([]api.Frame, bool) {
 	var frames []api.Frame
 	for text != "" {
-		one, rest, _ := strings.Cut(text, lineFeed)
+		one, rest, _ := strings.Cut(text, words.LineFeed)
 		f, ok := readFrame(cut(one))
 		if !ok {
 			return nil, false
@@ -48,19 +43,19 @@ func read(text string) ([]api.Frame, bool) {
 	return frames, true
 }
 
-func readFrame(words []string) (api.Frame, bool) {
-	if len(words) < 3 {
+func readFrame(list []string) (api.Frame, bool) {
+	if len(list) < 3 {
 		return api.Frame{}, false
 	}
 	var n [3]int
 	for i := range n {
 		var err error
-		if n[i], err = strconv.Atoi(words[i]); err != nil {
+		if n[i], err = strconv.Atoi(list[i]); err != nil {
 			return api.Frame{}, false
 		}
 	}
 	f := api.Frame{Fn: n[0], Pc: n[1], To: n[2]}
-	for _, word := range words[3:] {
+	for _, word := range list[3:] {
 		v, err := eval.Read(word)
 		if err != api.OK {
 			return api.Frame{}, false
@@ -70,20 +65,12 @@ func readFrame(words []string) (api.Frame, bool) {
 	return f, true
 }
 
-// cut returns the words of a line. The blanks within a quote are parts of it.
+// cut returns the words of a line.
 func cut(line string) []string {
-	var words []string
-	begin, quoted := 0, false
-	for i := 0; i < len(line); i++ {
-		switch {
-		case line[i] == '"':
-			quoted = !quoted
-		case line[i] == '\\':
-			i++ // what is escaped does not end a quote
-		case line[i] == blank && !quoted:
-			words = append(words, line[begin:i])
-			begin = i + 1
-		}
+	c := words.Over(line)
+	list := []string{c.Word()}
+	for c.Skip(words.Blank) {
+		list = append(list, c.Word())
 	}
-	return append(words, line[begin:])
+	return list
 }

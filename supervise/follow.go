@@ -45,10 +45,15 @@ func (s *service) become(state int) { s.state, s.due = state, 0 }
 
 // count counts a restart, and returns how many earlier ones still count against most.
 func (w *Warden) count() int {
-	w.counted++
-	w.recent = slices.DeleteFunc(w.recent, func(at int) bool { return at <= w.now-w.within })
-	w.recent = append(w.recent, w.now)
-	return len(w.recent) - 1
+	earlier := 0
+	for _, at := range slices.Backward(w.restarts) {
+		if at <= w.now-w.within {
+			break
+		}
+		earlier++
+	}
+	w.restarts = append(w.restarts, w.now)
+	return earlier
 }
 
 func (w *Warden) giveUp(s *service) []api.Order {

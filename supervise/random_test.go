@@ -45,10 +45,13 @@ func (p *plain) recent(first, now int) int {
 	return n
 }
 
-// delay is the greatest one of those of all restarts since the group began the last time.
+// delay is the greatest one of those of all restarts since the group began the last time, but for the one with which it gave up.
 func (p *plain) delay() int {
-	greatest := 0
-	for i := p.since; i < len(p.restarts); i++ {
+	greatest, last := 0, len(p.restarts)
+	if p.quit {
+		last--
+	}
+	for i := p.since; i < last; i++ {
 		d := p.spec.Base
 		for range p.recent(i, p.restarts[i]) {
 			d *= 2
@@ -226,6 +229,9 @@ func (w *walk) compare() {
 		}
 	}
 	w.wantRestarts(len(w.p.restarts))
+	if list, delay := w.Times(), w.Delay(); !slices.Equal(list, w.p.restarts) || delay != w.p.delay() {
+		w.t.Fatalf("Times() = %v, Delay() = %d, want %v, %d", list, delay, w.p.restarts, w.p.delay())
+	}
 	w.wantOver(!slices.ContainsFunc(w.p.states, func(s int) bool { return s != api.SGone }), w.p.quit)
 }
 

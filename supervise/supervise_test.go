@@ -521,7 +521,7 @@ func TestP221Nil(t *testing.T) {
 	if err := w.Started(1, 0); err != api.ErrArg {
 		t.Error("Started of nil", err)
 	}
-	if state, at := w.State(1); state != 0 || at != 0 || w.Restarts() != 0 || w.Copy() != nil {
+	if state, at := w.State(1); state != 0 || at != 0 || w.Restarts() != 0 || w.Times() != nil || w.Delay() != 0 || w.Copy() != nil {
 		t.Error("nil has a state")
 	}
 	if gone, quit := w.Over(); gone || quit {
@@ -531,6 +531,39 @@ func TestP221Nil(t *testing.T) {
 	if list, err := w.Ended(1, none, 0); list != nil || err != api.ErrNone || w.Started(1, 0) != api.ErrNone {
 		t.Error("a warden without services", list, err)
 	}
+}
+
+// TestP221Times checks that the times of restarts are kept, also those that are too old to count, and that nobody else gets their memory.
+func TestP221Times(t *testing.T) {
+	b := build(t, api.Spec{Rule: api.RAll, Most: 1, Within: 2, Base: 3, Cap: 9, Services: three()})
+	want := func(delay int, times ...int) {
+		t.Helper()
+		if list := b.Times(); !slices.Equal(list, times) || b.Delay() != delay {
+			t.Errorf("Times() = %v, Delay() = %d, want %v, %d", list, b.Delay(), times, delay)
+		}
+	}
+	want(0)
+	b.ended(2, none, 1, stop(3), stop(1))
+	want(3, 1)
+	b.ended(1, none, 2)
+	b.ended(3, none, 2, start(1, 5), start(2, 5), start(3, 5))
+	want(0, 1)
+	b.started(5, 1, 2, 3)
+	b.ended(1, none, 6, stop(3), stop(2))
+	want(3, 1, 6)
+	b.Times()[0] = 9
+	c := b.copy()
+	b.ended(2, none, 6)
+	b.ended(3, none, 6, start(1, 9), start(2, 9), start(3, 9))
+	b.started(9, 1, 2)
+	b.ended(2, none, 9, stop(1))
+	want(3, 1, 6, 9)
+	b.ended(1, none, 9, start(1, 12), start(2, 12), start(3, 12))
+	b.started(12, 1, 2, 3)
+	b.ended(1, none, 12, stop(3), stop(2))
+	want(3, 1, 6, 9, 12)
+	b = c
+	want(3, 1, 6)
 }
 
 func TestP221Copies(t *testing.T) {

@@ -182,6 +182,8 @@ func TestP242Random(t *testing.T) {
 // wild makes random asks, most of which can be done.
 type wild struct{ r *rand.Rand }
 
+func newWild(salt, seed uint64) wild { return wild{rand.New(rand.NewPCG(salt, seed))} }
+
 func (a wild) value() api.Value {
 	return api.Value{Kind: a.r.IntN(7), N: 1 + a.r.IntN(3)}
 }
@@ -218,6 +220,15 @@ func (a wild) ask() api.Ask {
 	return x
 }
 
+func (a wild) spec() api.Spec {
+	s := plainSpec(0, 1, a.r.IntN(4))
+	s.Rule, s.Most, s.Base, s.Cap = 1+a.r.IntN(3), a.r.IntN(3), a.r.IntN(2), 3
+	for i := range s.Services {
+		s.Services[i].When = 1 + a.r.IntN(3)
+	}
+	return s
+}
+
 // script makes random turns of four functions.
 func (a wild) script() script {
 	var s script
@@ -243,13 +254,8 @@ func TestP243Wild(t *testing.T) {
 	t.Parallel()
 	kinds := map[int]int{}
 	for seed := range uint64(400) {
-		a := wild{rand.New(rand.NewPCG(243, seed))}
-		s := plainSpec(0, 1, a.r.IntN(4))
-		s.Rule, s.Most, s.Base, s.Cap = 1+a.r.IntN(3), a.r.IntN(3), a.r.IntN(2), 3
-		for i := range s.Services {
-			s.Services[i].When = 1 + a.r.IntN(3)
-		}
-		w := play(t, s, a.script()...)
+		a := newWild(243, seed)
+		w := play(t, a.spec(), a.script()...)
 		for range 150 {
 			if w.Step(a.r.IntN(50)) != api.OK {
 				break
@@ -284,7 +290,11 @@ func stateOf(w *World) string {
 		v, err := w.Task(n)
 		add(v.Fn, v.Phase, v.Ask, v.Asks, int(err))
 		state, at := w.Service(n)
-		add(state, at)
+		add(state, at, w.Serves(n), w.Until(n))
+		for _, x := range w.Args(n) {
+			all = append(all, valueText(x))
+		}
+		all = append(all, strconv.FormatBool(w.Struck(api.Link{Kind: api.LTask, N: n})), strconv.FormatBool(w.Struck(api.Link{Kind: api.LScope, N: n})))
 		all = append(all, answersOf(w, n), valueText(v.V), faultText(v.Fault), strconv.FormatBool(w.Pending(n)))
 		chain, _ := w.Chain(n)
 		for _, l := range chain {
@@ -305,6 +315,9 @@ func stateOf(w *World) string {
 	for _, e := range w.Log() {
 		add(e.What, e.Task, e.From, e.To)
 	}
+	add(w.Delay())
+	add(w.Restarts()...)
+	all = append(all, timersOf(w))
 	return strings.Join(append(all, traceOf(w), outOf(w)), " ")
 }
 
