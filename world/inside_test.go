@@ -201,3 +201,72 @@ func TestP261Outside(t *testing.T) {
 		}
 	}
 }
+
+// checkMore checks what a run says of those who wait for others, and of parts of its trace, after a step from a position of the trace on.
+func checkMore(t *testing.T, w *World, from int) {
+	t.Helper()
+	for _, x := range w.tasks {
+		want := 0
+		for _, other := range w.tasks {
+			if slices.Contains(other.waiting, x.number) && other.phase != api.QEnded {
+				want = other.number
+			}
+		}
+		if n := w.Awaits(x.number); n != want {
+			t.Fatalf("Awaits(%d) = %d, want %d; %s", x.number, n, want, traceOf(w))
+		}
+	}
+	if l := w.Since(from); !slices.Equal(slices.Concat(w.Trace()[:from], l), w.Trace()) {
+		t.Fatalf("Since(%d) = %v", from, l)
+	}
+}
+
+// TestP271More checks that in random runs.
+func TestP271More(t *testing.T) {
+	t.Parallel()
+	waits := 0
+	for seed := range uint64(200) {
+		a := newWild(271, seed)
+		w := play(t, a.spec(), a.script()...)
+		for range 60 {
+			from := len(w.Trace())
+			w.Step(a.r.IntN(50))
+			checkMore(t, w, from)
+			for n := range w.tasks {
+				waits += min(1, w.Awaits(n+1))
+			}
+		}
+	}
+	if waits < 500 {
+		t.Errorf("only %d tasks wait for others", waits)
+	}
+}
+
+// TestP271Outside checks whom nobody awaits, and positions that are none.
+func TestP271Outside(t *testing.T) {
+	w := play(t, plainSpec(0, 1), asks(opens(0, -1), spawns(1), askV(api.AAwait, job(3))), asks(askN(api.ASleep, 1)))
+	w.Run(nil, 2)
+	for n, want := range map[int]int{1: 3, 2: 0, 3: 0, 4: 0, 0: 0, -1: 0, math.MaxInt: 0, math.MinInt: 0} {
+		if got := w.Awaits(n); got != want {
+			t.Errorf("Awaits(%d) = %d, want %d", n, got, want)
+		}
+	}
+	all := w.Trace()
+	for at, want := range map[int][]api.Event{0: all, -1: all, math.MinInt: all, 2: all[2:], len(all): nil, len(all) + 1: nil, math.MaxInt: nil} {
+		l := w.Since(at)
+		if !slices.Equal(l, want) {
+			t.Errorf("Since(%d) = %v, want %v", at, l, want)
+		}
+		clear(l)
+	}
+	if !slices.Equal(w.Trace(), all) {
+		t.Errorf("the trace is %s", traceOf(w))
+	}
+	for _, w := range []*World{nil, {}} {
+		for _, n := range []int{0, 1, -1} {
+			if w.Awaits(n) != 0 || len(w.Since(n)) != 0 {
+				t.Errorf("Awaits(%d) = %d, Since(%d) = %v", n, w.Awaits(n), n, w.Since(n))
+			}
+		}
+	}
+}
